@@ -168,11 +168,11 @@ func (r *Reader) Signed(k int) int64 {
 }
 
 // End is the first error; ErrForm, if a bit that is left is not 0.
+// It reads what is left, for behind it there is none, whatever it answers.
 func (r *Reader) End() api.Errno {
-	for i := range r.Left() {
-		if r.bit(r.at+i) != 0 {
+	for r.Left() > 0 {
+		if r.Get(min(r.Left(), Widest)) != 0 {
 			r.Fail(api.ErrForm)
-			break
 		}
 	}
 	return r.Err()

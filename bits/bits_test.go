@@ -389,11 +389,11 @@ func TestEnd(t *testing.T) {
 			b[at/8] = 0x80 >> (at % 8)
 			r := bits.Read(b)
 			r.Get(read)
-			want, left := api.OK, 24-read
+			want := api.OK
 			if at >= read {
-				want, left = api.ErrForm, 0
+				want = api.ErrForm
 			}
-			if got := r.End(); got != want || r.Left() != left || r.Err() != want || r.End() != want {
+			if got := r.End(); got != want || r.Left() != 0 || r.Err() != want || r.End() != want {
 				t.Errorf("bit %d, %d read: %v, %d left, %v", at, read, got, r.Left(), r.Err())
 			}
 			r.Fail(api.ErrSum)
@@ -405,6 +405,43 @@ func TestEnd(t *testing.T) {
 	if r := bits.Read([]byte{0, 0, 7}); r.End() != api.ErrForm {
 		t.Error(r.Err())
 	}
+}
+
+// Promise 1.2, End: behind it no bit is left, where it answers OK too.
+func TestEndLeavesNone(t *testing.T) {
+	for read := range 25 {
+		for k := -1; k <= bits.Widest+1; k++ {
+			want := api.ErrShort
+			if k == 0 {
+				want = api.OK
+			} else if k < 0 || k > bits.Widest {
+				want = api.ErrArg
+			}
+			r, s := ended(t, read), ended(t, read)
+			if v := r.Get(k); v != 0 || r.Err() != want || r.Left() != 0 || r.End() != want {
+				t.Errorf("%d read, End, Get(%d) = %d, %v; want %v", read, k, v, r.Err(), want)
+			}
+			if v := s.Signed(k); v != 0 || s.Err() != want || s.Left() != 0 || s.End() != want {
+				t.Errorf("%d read, End, Signed(%d) = %d, %v; want %v", read, k, v, s.Err(), want)
+			}
+		}
+		r := ended(t, read)
+		r.Fail(api.ErrSum)
+		if r.Err() != api.ErrSum || r.End() != api.ErrSum || r.Left() != 0 {
+			t.Errorf("%d read, End, Fail: %v", read, r.Err())
+		}
+	}
+}
+
+// ended is a reader of noughts of which so many were read, behind an End that answered OK.
+func ended(t *testing.T, read int) *bits.Reader {
+	t.Helper()
+	r := bits.Read(make([]byte, 3))
+	r.Get(read)
+	if e := r.End(); e != api.OK || r.Err() != api.OK || r.Left() != 0 || r.End() != api.OK {
+		t.Errorf("%d read: End %v, %d left", read, e, r.Left())
+	}
+	return r
 }
 
 // Rule R3: what a reader was given is neither changed nor kept.
